@@ -79,11 +79,12 @@ type side struct {
 	vars      []string
 	any       bool
 	isPattern bool
+	isName    bool
 }
 
 func newSide(r impl.Rule, n int) side {
 	sums := slices.Concat(placesIn(r, n, impl.ExAdd), placesIn(r, n, impl.ExSub), placesIn(r, n, impl.ExMul))
-	return side{wantedVars(r, n), len(placesIn(r, n, impl.ExAny)) > 0, len(sums) == 0}
+	return side{wantedVars(r, n), len(placesIn(r, n, impl.ExAny)) > 0, len(sums) == 0, r.Exps[n].Kind == impl.ExVar}
 }
 
 // atomNames are bound by the literals that are LtAtom.
@@ -113,18 +114,23 @@ func equations(r impl.Rule) [][2]side {
 	return list
 }
 
-func isClosed(set map[string]bool, atoms []string, list [][2]side) bool {
+func isClosed(set map[string]bool, atoms []string, list [][2]side, binds func(side) bool) bool {
 	for _, pair := range list {
-		if !pair[0].any && hasAll(set, pair[0].vars) && pair[1].isPattern && !hasAll(set, pair[1].vars) {
+		if binds(pair[0]) && hasAll(set, pair[0].vars) && pair[1].isPattern && !hasAll(set, pair[1].vars) {
 			return false
 		}
 	}
 	return hasAll(set, atoms)
 }
 
-// wantedBound is what all sets of names have that are as the chapter says; there
-// is none to reckon up step by step. It wants a rule that has the form.
 func wantedBound(r impl.Rule) []string {
+	return leastNames(r, func(s side) bool { return !s.any })
+}
+
+// leastNames is what all sets of names have that have those of the LtAtom, and by
+// each equation the names of one side, where the other one binds them; there is
+// none to reckon up step by step. It wants a rule that has the form.
+func leastNames(r impl.Rule, binds func(side) bool) []string {
 	names, atoms, list := namesOf(r), atomNames(r), equations(r)
 	least := 1<<len(names) - 1
 	for bits := range 1 << len(names) {
@@ -132,7 +138,7 @@ func wantedBound(r impl.Rule) []string {
 		for i, name := range names {
 			set[name] = bits>>i&1 == 1
 		}
-		if isClosed(set, atoms, list) {
+		if isClosed(set, atoms, list, binds) {
 			least &= bits
 		}
 	}
@@ -395,6 +401,15 @@ func withoutAny(p impl.Prog) impl.Prog {
 	return q
 }
 
+// turnEquations changes the sides of each one in a body.
+func turnEquations(body []string) {
+	for i, lit := range body {
+		if left, right, isEquation := strings.Cut(lit, " = "); isEquation {
+			body[i] = right + " = " + left
+		}
+	}
+}
+
 // TestBodiesInAnyOrder: neither the order of literals nor that of the sides of an
 // equation matters to what is bound and grounded.
 func TestBodiesInAnyOrder(t *testing.T) {
@@ -408,11 +423,7 @@ func TestBodiesInAnyOrder(t *testing.T) {
 		_, code := impl.CheckGround(first)
 		for range 4 {
 			w.Shuffle(len(body), func(i, j int) { body[i], body[j] = body[j], body[i] })
-			for i, lit := range body {
-				if left, right, isEquation := strings.Cut(lit, " = "); isEquation {
-					body[i] = right + " = " + left
-				}
-			}
+			turnEquations(body)
 			p := parsed(t, declarations+"none() :- "+strings.Join(body, ", ")+".")
 			if got := slices.Sorted(slices.Values(impl.Bound(p.Rules[0]))); !slices.Equal(got, names) {
 				t.Fatalf("Bound of %v is %q, not %q", body, got, names)

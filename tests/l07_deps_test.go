@@ -55,7 +55,7 @@ func wantDeps(t *testing.T, p impl.Prog, depWords string) {
 	wantDepList(t, p, want)
 }
 
-// wantNothing wants what the chapter says of a program that is not grounded.
+// wantNothing wants what chapters 7 and 8 say of a program that is not grounded.
 func wantNothing(t *testing.T, what string, p impl.Prog) {
 	t.Helper()
 	if _, code := impl.CheckGround(p); code == impl.GrOK {
@@ -69,6 +69,9 @@ func wantNothing(t *testing.T, what string, p impl.Prog) {
 	}
 	if impl.Ready(p) {
 		t.Errorf("%s: the program is Ready", what)
+	}
+	if got := impl.GraphsOf(p); len(got) > 0 || impl.Ends(p) {
+		t.Errorf("%s: GraphsOf = %v, Ends = %v", what, got, impl.Ends(p))
 	}
 	for _, a := range []int{-1, 0, len(p.Rels) - 1, len(p.Rels)} {
 		if impl.Together(p, a, a) || impl.Together(p, a, 0) || impl.Together(p, 0, a) {
